@@ -152,16 +152,15 @@ func shipped(r api.MouldRun, can int) []int {
 	return l
 }
 
-// sniffed is the pod that should be sniffed, by the document's words.
-func sniffed(r api.MouldRun, all []api.MouldTruth, l []api.Sniff) (pod, worst int) {
+// sniffed is the pod that should be sniffed, by the document's words; can tells which pods can have mould at the last time, by sniffs, and whether any truth agrees.
+func sniffed(r api.MouldRun, l []api.Sniff, can func(l []api.Sniff) (int, bool)) (pod, worst int) {
 	last := len(r.Where)
 	var counts []int
 	for pod := range r.Pods {
 		most := -1
 		for _, s := range sniffs(smelt(last, pod), notSmelt(last, pod)) {
-			if some, played := agreed(r, all, append(slices.Clone(l), s)); len(some) > 0 {
-				can, _ := at(played, last)
-				most = max(most, bits.OnesCount(uint(can)))
+			if set, ok := can(append(slices.Clone(l), s)); ok {
+				most = max(most, bits.OnesCount(uint(set)))
 			}
 		}
 		counts = append(counts, most)
@@ -250,7 +249,11 @@ func TestWhatAllTruthsTell(t *testing.T) {
 		can, _ := at(played, len(g.Where))
 		boxes := shipped(g, can)
 		wantShip(t, "all truths", g, l, boxes, api.OK)
-		pod, worst := sniffed(g, all, l)
+		pod, worst := sniffed(g, l, func(l []api.Sniff) (int, bool) {
+			some, played := agreed(g, all, l)
+			can, _ := at(played, len(g.Where))
+			return can, len(some) > 0
+		})
 		wantNext(t, "all truths", g, l, pod, worst, api.OK)
 		if len(boxes) > 0 && can != 0 {
 			shippedSome++
@@ -283,23 +286,35 @@ func TestLongRuns(t *testing.T) {
 		last := len(g.Where)
 		if len(sets[last]) == 0 {
 			wantCan(t, "no truth", g, l, 0, 0, 0, api.ErrNone)
+			wantNext(t, "no truth", g, l, 0, 0, api.ErrNone)
 			continue
 		}
 		possible++
 		for time, some := range sets {
-			can, sure := 0, -1
-			for set := range some {
-				can, sure = can|set, sure&set
-			}
+			can, sure := ofSets(some)
 			wantCan(t, "long", g, l, time, can, sure, api.OK)
-			if time == last {
-				wantShip(t, "long", g, l, shipped(g, can), api.OK)
-			}
 		}
+		can, _ := ofSets(sets[last])
+		wantShip(t, "long", g, l, shipped(g, can), api.OK)
+		pod, worst := sniffed(g, l, func(l []api.Sniff) (int, bool) {
+			some := allSets(g, l)[last]
+			can, _ := ofSets(some)
+			return can, len(some) > 0
+		})
+		wantNext(t, "long", g, l, pod, worst, api.OK)
 	}
 	if possible < 100 || possible > 390 {
 		t.Errorf("%d of 400 runs are possible", possible)
 	}
+}
+
+// ofSets returns the pods that are in any of some sets, and those that are in each one.
+func ofSets(some map[int]bool) (can, sure int) {
+	sure = -1
+	for set := range some {
+		can, sure = can|set, sure&set
+	}
+	return can, sure
 }
 
 // allSets returns for each time the sets of pods with mould that can be then: what can follow from the first day on, and of it only what can go on up to the last day.
